@@ -5,6 +5,7 @@ import (
 	"strings"
 
 	"quartermaster/api"
+	"quartermaster/number"
 )
 
 // Print: a as a text that Parse takes back.
@@ -86,7 +87,7 @@ func readSlot(a *api.Atom, tail string) bool {
 		return true
 	}
 	var ok bool
-	a.Slot, ok = number(tail[1:])
+	a.Slot, ok = number.Read(tail[1:])
 	return ok && a.Slot != 0
 }
 
@@ -97,15 +98,9 @@ func readVersion(a *api.Atom, tail string) bool {
 	for op := api.Just; op < len(signs); op++ {
 		if digits, ok := strings.CutPrefix(tail, signs[op]); ok {
 			a.Op = op
-			a.Version, ok = number(digits)
+			a.Version, ok = number.Read(digits)
 			return ok
 		}
 	}
 	return false
-}
-
-// number takes what strconv.Itoa writes, and nothing else: Atoi alone would take "+1" and "01".
-func number(s string) (int, bool) {
-	n, err := strconv.Atoi(s)
-	return n, err == nil && strconv.Itoa(n) == s
 }
