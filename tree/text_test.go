@@ -1,8 +1,8 @@
 package tree
 
 import (
-	"reflect"
 	"regexp"
+	"slices"
 	"strconv"
 	"strings"
 	"testing"
@@ -12,25 +12,10 @@ import (
 )
 
 // alike: are all fields of a and b alike? nil and empty lists are.
-func alike(a, b api.Tree) bool { return reflect.DeepEqual(bare(a), bare(b)) }
-
-func bare(t api.Tree) api.Tree {
-	var out api.Tree
-	for _, p := range t.Packages {
-		p.Flags = append([]string(nil), p.Flags...)
-		p.Need = bareNeed(p.Need)
-		out.Packages = append(out.Packages, p)
-	}
-	return out
-}
-
-func bareNeed(n api.Need) api.Need {
-	var kids []api.Need
-	for _, kid := range n.Kids {
-		kids = append(kids, bareNeed(kid))
-	}
-	n.Kids = kids
-	return n
+func alike(a, b api.Tree) bool {
+	return slices.EqualFunc(a.Packages, b.Packages, func(p, q api.Package) bool {
+		return p.Name == q.Name && p.Version == q.Version && p.Slot == q.Slot && slices.Equal(p.Flags, q.Flags) && need.Same(p.Need, q.Need)
+	})
 }
 
 func TestPrintAndParse(t *testing.T) {
